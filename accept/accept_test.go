@@ -73,7 +73,7 @@ func expectCheck(t *testing.T, what string, p api.Program, where api.Where, want
 	}
 }
 
-// TestExamples has the examples of the chapter.
+// TestExamples has the examples of the chapter, of P18.1.
 func TestExamples(t *testing.T) {
 	for _, x := range []struct {
 		text  string
