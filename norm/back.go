@@ -1,0 +1,57 @@
+package norm
+
+import (
+	"slices"
+
+	"synchrony/api"
+)
+
+// Back returns a normalized program as a program.
+func Back(n api.NProgram) api.Program {
+	return api.Program{Enums: mapped(n.Enums, copyEnum), Nodes: mapped(n.Nodes, backNode)}
+}
+
+func backNode(n api.NNode) api.Node {
+	types := typesOf(n)
+	back := func(x api.NEq) api.Eq { return api.Eq{Left: slices.Clone(x.Left), Right: right(x, types)} }
+	return api.Node{
+		Name:   n.Name,
+		In:     mapped(n.In, copyDecl),
+		Out:    mapped(n.Out, copyDecl),
+		Locals: mapped(n.Locals, copyDecl),
+		Eqs:    mapped(n.Eqs, back),
+	}
+}
+
+// typesOf returns the types of the variables of a node; of several with the same name, that of the first one.
+func typesOf(n api.NNode) map[string]int {
+	types := map[string]int{}
+	for _, d := range slices.Backward(slices.Concat(n.In, n.Out, n.Locals)) {
+		types[d.Name] = d.Type
+	}
+	return types
+}
+
+// right returns the right side that an equation stands for, in a node whose variables have the types.
+func right(x api.NEq, types map[string]int) api.Expr {
+	switch x.Kind {
+	case api.NDelay:
+		t := api.TInt
+		if len(x.Left) > 0 {
+			if declared, ok := types[x.Left[0]]; ok {
+				t = declared
+			}
+		}
+		return api.Expr{Kind: api.EFby, Args: []api.Expr{constant(t, x.Init), copyExpr(x.Right)}}
+	case api.NCall:
+		e := api.Expr{Kind: api.ECall, Name: x.Node, Args: mapped(x.Args, copyExpr)}
+		if x.Every != "" {
+			e.V = 1
+			e.Args = append(e.Args, variable(x.Every))
+		}
+		return e
+	case api.NWord:
+		return api.Expr{Kind: api.EWord, Name: x.Node}
+	}
+	return copyExpr(x.Right)
+}
