@@ -4,6 +4,7 @@ import (
 	"slices"
 
 	"synchrony/api"
+	"synchrony/clone"
 )
 
 // automaton is an automaton while it is replaced.
@@ -47,7 +48,7 @@ func (a *automaton) merge(name string, arg func(state int) api.Expr) api.Expr {
 func (a *automaton) replace() []api.Node {
 	was, flag := a.local("was", a.mode), a.local("flag", api.TBool)
 	condition := func(x api.Trans) string { return a.local("cond", api.TBool) }
-	conditions := mapped(a.states, func(s api.State) []string { return mapped(s.Unless, condition) })
+	conditions := clone.Map(a.states, func(s api.State) []string { return clone.Map(s.Unless, condition) })
 	now, reset := a.local("now", a.mode), a.local("reset", api.TBool)
 	var bodies []api.Node
 	var results [][]string // for each body, the variables that get its outputs
@@ -63,7 +64,7 @@ func (a *automaton) replace() []api.Node {
 	for i, b := range bodies {
 		a.equation(call(b, reset, a.on(now, i)), results[i]...)
 	}
-	for i, name := range append(mapped(a.defined, nameOf), next, back) {
+	for i, name := range append(clone.Map(a.defined, nameOf), next, back) {
 		a.equation(a.merge(now, func(state int) api.Expr { return variable(results[state][i]) }), name)
 	}
 	return bodies
@@ -73,7 +74,7 @@ func (a *automaton) replace() []api.Node {
 func (a *automaton) choose(conditions [][]string, was, flag, now, reset string) {
 	for i, s := range a.states {
 		for k, x := range s.Unless {
-			a.equation(copyExpr(x.Cond), conditions[i][k])
+			a.equation(clone.Expr(x.Cond), conditions[i][k])
 		}
 	}
 	decide := func(value func(x api.Trans) api.Expr, ending func(state int) api.Expr) api.Expr {
@@ -88,29 +89,29 @@ func (a *automaton) choose(conditions [][]string, was, flag, now, reset string) 
 
 // results adds the variables that get the outputs of the body of a state.
 func (a *automaton) results(on api.On) []string {
-	names := mapped(a.defined, func(d api.Decl) string { return a.local("part", d.Type, on) })
+	names := clone.Map(a.defined, func(d api.Decl) string { return a.local("part", d.Type, on) })
 	return append(names, a.local("next", a.mode, on), a.local("back", api.TBool, on))
 }
 
 // call returns the call of a body, with the inputs and the reset condition sampled.
 func call(b api.Node, reset string, on api.On) api.Expr {
-	names := append(mapped(b.In, nameOf), reset)
-	return api.Expr{Kind: api.ECall, Name: b.Name, V: 1, Args: mapped(names, func(name string) api.Expr { return sampled(name, on) })}
+	names := append(clone.Map(b.In, nameOf), reset)
+	return api.Expr{Kind: api.ECall, Name: b.Name, V: 1, Args: clone.Map(names, func(name string) api.Expr { return sampled(name, on) })}
 }
 
 // body returns the node that is called when the state s, whose index is i, is executed.
 func (a *automaton) body(i int, s api.State) api.Node {
 	b := api.Node{Name: a.fresh("body"), In: a.inputs(s), Autos: s.Autos}
 	next, back := a.fresh("next"), a.fresh("back")
-	b.Out = append(mapped(a.defined, onBase), api.Decl{Name: next, Type: a.mode}, api.Decl{Name: back, Type: api.TBool})
-	b.Locals = mapped(s.Locals, copyDecl)
-	b.Eqs = mapped(s.Eqs, copyEq)
+	b.Out = append(clone.Map(a.defined, onBase), api.Decl{Name: next, Type: a.mode}, api.Decl{Name: back, Type: api.TBool})
+	b.Locals = clone.Map(s.Locals, clone.Decl)
+	b.Eqs = clone.Map(s.Eqs, clone.Eq)
 	var conditions []string
 	for _, x := range s.Until {
 		name := a.fresh("cond")
 		conditions = append(conditions, name)
 		b.Locals = append(b.Locals, api.Decl{Name: name, Type: api.TBool})
-		b.Eqs = append(b.Eqs, define(copyExpr(x.Cond), name))
+		b.Eqs = append(b.Eqs, define(clone.Expr(x.Cond), name))
 	}
 	condition := func(k int) api.Expr { return variable(conditions[k]) }
 	b.Eqs = append(b.Eqs,
@@ -123,7 +124,7 @@ func (a *automaton) body(i int, s api.State) api.Node {
 func (a *automaton) inputs(s api.State) []api.Decl {
 	read, defined := nameSet{}, nameSet{}
 	read.addRead(s)
-	defined.add(mapped(a.defined, nameOf)...)
+	defined.add(clone.Map(a.defined, nameOf)...)
 	inner := func(d api.Decl) bool { return defined.has(d.Name) || !read.has(d.Name) }
-	return mapped(slices.DeleteFunc(slices.Clone(a.vars), inner), onBase)
+	return clone.Map(slices.DeleteFunc(slices.Clone(a.vars), inner), onBase)
 }

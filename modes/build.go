@@ -4,45 +4,20 @@ import (
 	"slices"
 
 	"synchrony/api"
+	"synchrony/clone"
 )
-
-// mapped returns the list of what f returns for the elements of l.
-func mapped[A, B any](l []A, f func(x A) B) []B {
-	list := slices.Grow([]B(nil), len(l))
-	for _, x := range l {
-		list = append(list, f(x))
-	}
-	return list
-}
 
 func nameOf(d api.Decl) string { return d.Name }
 
 // onBase returns the declaration of the variable on the base clock.
 func onBase(d api.Decl) api.Decl { return api.Decl{Name: d.Name, Type: d.Type} }
 
-func copyEnum(x api.Enum) api.Enum {
-	x.Tags = slices.Clone(x.Tags)
-	return x
-}
-
 // copyNode copies what n itself has. The parts of its automata are copied when they become parts of other nodes.
 func copyNode(n api.Node) api.Node {
-	n.In, n.Out, n.Locals = mapped(n.In, copyDecl), mapped(n.Out, copyDecl), mapped(n.Locals, copyDecl)
-	n.Eqs = mapped(n.Eqs, copyEq)
-	n.Assume, n.Ensure = mapped(n.Assume, copyExpr), mapped(n.Ensure, copyExpr)
+	n.In, n.Out, n.Locals = clone.Map(n.In, clone.Decl), clone.Map(n.Out, clone.Decl), clone.Map(n.Locals, clone.Decl)
+	n.Eqs = clone.Map(n.Eqs, clone.Eq)
+	n.Assume, n.Ensure = clone.Map(n.Assume, clone.Expr), clone.Map(n.Ensure, clone.Expr)
 	return n
-}
-
-func copyDecl(d api.Decl) api.Decl {
-	d.Clock = slices.Clone(d.Clock)
-	return d
-}
-
-func copyEq(x api.Eq) api.Eq { return define(copyExpr(x.Right), x.Left...) }
-
-func copyExpr(e api.Expr) api.Expr {
-	e.Args = mapped(e.Args, copyExpr)
-	return e
 }
 
 // define returns the equation of the variables with a right side, of which it makes no copy.

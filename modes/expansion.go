@@ -2,6 +2,7 @@ package modes
 
 import (
 	"synchrony/api"
+	"synchrony/clone"
 	"synchrony/scope"
 )
 
@@ -39,7 +40,7 @@ func (x *expansion) automaton(n *api.Node, vars []api.Decl, a api.Auto) *automat
 		vars:      vars,
 		states:    a.States,
 		mode:      x.enum(len(a.States)),
-		defined:   mapped(scope.Defined(api.Node{Autos: []api.Auto{a}}), typed),
+		defined:   clone.Map(scope.Defined(api.Node{Autos: []api.Auto{a}}), typed),
 	}
 }
 

@@ -4,6 +4,7 @@ import (
 	"strconv"
 
 	"synchrony/api"
+	"synchrony/clone"
 	"synchrony/expr"
 	"synchrony/scope"
 )
@@ -41,7 +42,7 @@ func declared(p api.Program) nameSet {
 	}
 	for _, n := range p.Nodes {
 		l.add(n.Name)
-		l.add(mapped(scope.Vars(n), nameOf)...)
+		l.add(clone.Map(scope.Vars(n), nameOf)...)
 		l.addStates(n.Autos)
 	}
 	return l
@@ -52,7 +53,7 @@ func (l nameSet) addStates(autos []api.Auto) {
 	for _, a := range autos {
 		for _, s := range a.States {
 			l.add(s.Name)
-			l.add(mapped(s.Locals, nameOf)...)
+			l.add(clone.Map(s.Locals, nameOf)...)
 			l.addStates(s.Autos)
 		}
 	}

@@ -4,11 +4,12 @@ import (
 	"slices"
 
 	"synchrony/api"
+	"synchrony/clone"
 )
 
 // Back returns a normalized program as a program.
 func Back(n api.NProgram) api.Program {
-	return api.Program{Enums: mapped(n.Enums, copyEnum), Nodes: mapped(n.Nodes, backNode)}
+	return api.Program{Enums: clone.Map(n.Enums, clone.Enum), Nodes: clone.Map(n.Nodes, backNode)}
 }
 
 func backNode(n api.NNode) api.Node {
@@ -16,10 +17,10 @@ func backNode(n api.NNode) api.Node {
 	back := func(x api.NEq) api.Eq { return api.Eq{Left: slices.Clone(x.Left), Right: right(x, types)} }
 	return api.Node{
 		Name:   n.Name,
-		In:     mapped(n.In, copyDecl),
-		Out:    mapped(n.Out, copyDecl),
-		Locals: mapped(n.Locals, copyDecl),
-		Eqs:    mapped(n.Eqs, back),
+		In:     clone.Map(n.In, clone.Decl),
+		Out:    clone.Map(n.Out, clone.Decl),
+		Locals: clone.Map(n.Locals, clone.Decl),
+		Eqs:    clone.Map(n.Eqs, back),
 	}
 }
 
@@ -42,9 +43,9 @@ func right(x api.NEq, types map[string]int) api.Expr {
 				t = declared
 			}
 		}
-		return api.Expr{Kind: api.EFby, Args: []api.Expr{constant(t, x.Init), copyExpr(x.Right)}}
+		return api.Expr{Kind: api.EFby, Args: []api.Expr{constant(t, x.Init), clone.Expr(x.Right)}}
 	case api.NCall:
-		e := api.Expr{Kind: api.ECall, Name: x.Node, Args: mapped(x.Args, copyExpr)}
+		e := api.Expr{Kind: api.ECall, Name: x.Node, Args: clone.Map(x.Args, clone.Expr)}
 		if x.Every != "" {
 			e.V = 1
 			e.Args = append(e.Args, variable(x.Every))
@@ -53,5 +54,5 @@ func right(x api.NEq, types map[string]int) api.Expr {
 	case api.NWord:
 		return api.Expr{Kind: api.EWord, Name: x.Node}
 	}
-	return copyExpr(x.Right)
+	return clone.Expr(x.Right)
 }

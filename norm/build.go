@@ -6,33 +6,9 @@ import (
 	"synchrony/api"
 )
 
-// mapped returns the list of what f returns for the elements of l.
-func mapped[A, B any](l []A, f func(x A) B) []B {
-	list := slices.Grow([]B(nil), len(l))
-	for _, x := range l {
-		list = append(list, f(x))
-	}
-	return list
-}
-
 // all reports whether each element is as asked for.
 func all[A any](l []A, is func(x A) bool) bool {
 	return !slices.ContainsFunc(l, func(x A) bool { return !is(x) })
-}
-
-func copyEnum(x api.Enum) api.Enum {
-	x.Tags = slices.Clone(x.Tags)
-	return x
-}
-
-func copyDecl(d api.Decl) api.Decl {
-	d.Clock = slices.Clone(d.Clock)
-	return d
-}
-
-func copyExpr(e api.Expr) api.Expr {
-	e.Args = mapped(e.Args, copyExpr)
-	return e
 }
 
 func constant(t, v int) api.Expr { return api.Expr{Kind: api.EConst, T: t, V: v} }

@@ -4,6 +4,7 @@ import (
 	"slices"
 
 	"synchrony/api"
+	"synchrony/clone"
 	"synchrony/expr"
 )
 
@@ -45,7 +46,7 @@ func frame(n api.NProgram) api.Program {
 	node := func(x api.NNode) api.Node {
 		return api.Node{Name: x.Name, In: x.In, Out: x.Out, Locals: x.Locals}
 	}
-	return api.Program{Enums: n.Enums, Nodes: mapped(n.Nodes, node)}
+	return api.Program{Enums: n.Enums, Nodes: clone.Map(n.Nodes, node)}
 }
 
 func sameEqs(a, b api.NNode) bool { return slices.EqualFunc(a.Eqs, b.Eqs, sameEq) }

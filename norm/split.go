@@ -4,6 +4,7 @@ import (
 	"slices"
 
 	"synchrony/api"
+	"synchrony/clone"
 	"synchrony/scope"
 	"synchrony/types"
 )
@@ -115,7 +116,7 @@ func (s *splitter) atom(e api.Expr, ck []api.On) api.Expr {
 }
 
 func (s *splitter) simples(l []api.Expr, ck []api.On) []api.Expr {
-	return mapped(l, func(e api.Expr) api.Expr { return s.simple(e, ck) })
+	return clone.Map(l, func(e api.Expr) api.Expr { return s.simple(e, ck) })
 }
 
 func (s *splitter) simple(e api.Expr, ck []api.On) api.Expr {

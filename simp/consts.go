@@ -1,6 +1,9 @@
 package simp
 
-import "synchrony/api"
+import (
+	"synchrony/api"
+	"synchrony/clone"
+)
 
 // definitions returns the right sides, of one kind, of the definitions of single variables that no other equation defines.
 func definitions(eqs []api.NEq, kind int) map[string]api.Expr {
@@ -57,7 +60,7 @@ func (l constants) replace(e *api.Expr) bool {
 
 // settle folds what an equation has, and makes a definition of a delay that is always the same.
 func settle(x *api.NEq) {
-	x.Right, x.Args = Fold(x.Right), mapped(x.Args, Fold)
+	x.Right, x.Args = Fold(x.Right), clone.Map(x.Args, Fold)
 	if x.Kind == api.NDelay && x.Right.Kind == api.EConst && x.Right.V == x.Init {
 		x.Kind, x.Init = api.NDef, 0
 	}

@@ -1,10 +1,8 @@
 package simp
 
 import (
-	"slices"
-
 	"synchrony/api"
-	"synchrony/expr"
+	"synchrony/equations"
 )
 
 // neededOf returns, for each equation of a node, whether it is needed.
@@ -12,7 +10,7 @@ func neededOf(n api.NNode) []bool {
 	definers := definersOf(n.Eqs)
 	clocks := map[string][]string{} // the clock variables of the locals with a name
 	for _, d := range n.Locals {
-		clocks[d.Name] = append(clocks[d.Name], namesIn(d.Clock)...)
+		clocks[d.Name] = append(clocks[d.Name], equations.Clock(d.Clock)...)
 	}
 	var names []string // of variables that are needed
 	for _, d := range n.Out {
@@ -27,7 +25,7 @@ func neededOf(n api.NNode) []bool {
 				continue
 			}
 			needed[i] = true
-			names = append(names, reads(n.Eqs[i])...)
+			names = append(names, equations.Reads(n.Eqs[i])...)
 			for _, defined := range n.Eqs[i].Left {
 				names = append(names, clocks[defined]...)
 			}
@@ -46,20 +44,4 @@ func definersOf(eqs []api.NEq) map[string][]int {
 		}
 	}
 	return definers
-}
-
-// reads returns the variables that an equation reads.
-func reads(x api.NEq) []string {
-	l := slices.Concat(expr.Names(x.Right), namesIn(x.Clock))
-	for _, a := range x.Args {
-		l = append(l, expr.Names(a)...)
-	}
-	if x.Every != "" {
-		l = append(l, x.Every)
-	}
-	return l
-}
-
-func namesIn(ck []api.On) []string {
-	return mapped(ck, func(on api.On) string { return on.Name })
 }
