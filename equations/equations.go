@@ -1,7 +1,9 @@
-// Package equations tells about normalized equations what several layers ask.
+// Package equations tells about normalized equations, and about the nodes that have them, what several layers ask.
 package equations
 
 import (
+	"slices"
+
 	"synchrony/api"
 	"synchrony/clone"
 	"synchrony/expr"
@@ -22,4 +24,13 @@ func Reads(x api.NEq) []string {
 // Clock returns the clock variables of a clock.
 func Clock(ck []api.On) []string {
 	return clone.Map(ck, func(on api.On) string { return on.Name })
+}
+
+// Types returns the types of the variables of a node; of several with the same name, that of the first one.
+func Types(n api.NNode) map[string]int {
+	types := map[string]int{}
+	for _, d := range slices.Backward(slices.Concat(n.In, n.Out, n.Locals)) {
+		types[d.Name] = d.Type
+	}
+	return types
 }

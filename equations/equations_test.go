@@ -1,6 +1,7 @@
 package equations
 
 import (
+	"maps"
 	"slices"
 	"testing"
 
@@ -30,5 +31,21 @@ func TestReads(t *testing.T) {
 	}
 	if l := Reads(api.NEq{}); len(l) > 0 {
 		t.Errorf("nothing reads %q", l)
+	}
+}
+
+// TestTypes is what P19.3 (constants of delays) and P23.1 (memories) depend on: the first declaration of a variable counts.
+func TestTypes(t *testing.T) {
+	d := func(name string, t int) api.Decl { return api.Decl{Name: name, Type: t} }
+	n := api.NNode{
+		In:     []api.Decl{d("a", 1), d("b", 2), d("a", 2)},
+		Out:    []api.Decl{d("b", 3), d("x", 4), d("", 5)},
+		Locals: []api.Decl{d("x", 1), d("y", 6), d("a", 6), d("y", 1), d("", 1)},
+	}
+	if l, want := Types(n), map[string]int{"a": 1, "b": 2, "x": 4, "": 5, "y": 6}; !maps.Equal(l, want) {
+		t.Errorf("the types are %v, want %v", l, want)
+	}
+	if l := Types(api.NNode{}); len(l) > 0 {
+		t.Errorf("nothing has the types %v", l)
 	}
 }

@@ -1,8 +1,6 @@
 package modes
 
 import (
-	"strconv"
-
 	"synchrony/api"
 	"synchrony/clone"
 	"synchrony/expr"
@@ -19,19 +17,6 @@ func (l nameSet) add(names ...string) {
 }
 
 func (l nameSet) has(name string) bool { return l[name] }
-
-// naming returns a function that adds a name for a base: names of different bases, which have no underscores, differ.
-func naming(p api.Program) func(base string) string {
-	used, last := declared(p), map[string]int{}
-	return func(base string) string {
-		for {
-			last[base]++
-			if name := base + "_" + strconv.Itoa(last[base]); !used.has(name) {
-				return name
-			}
-		}
-	}
-}
 
 // declared returns the names of all kinds in a program whose names are right, so that each one is declared somewhere.
 func declared(p api.Program) nameSet {

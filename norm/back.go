@@ -5,6 +5,7 @@ import (
 
 	"synchrony/api"
 	"synchrony/clone"
+	"synchrony/equations"
 )
 
 // Back returns a normalized program as a program.
@@ -13,7 +14,7 @@ func Back(n api.NProgram) api.Program {
 }
 
 func backNode(n api.NNode) api.Node {
-	types := typesOf(n)
+	types := equations.Types(n)
 	back := func(x api.NEq) api.Eq { return api.Eq{Left: slices.Clone(x.Left), Right: right(x, types)} }
 	return api.Node{
 		Name:   n.Name,
@@ -22,15 +23,6 @@ func backNode(n api.NNode) api.Node {
 		Locals: clone.Map(n.Locals, clone.Decl),
 		Eqs:    clone.Map(n.Eqs, back),
 	}
-}
-
-// typesOf returns the types of the variables of a node; of several with the same name, that of the first one.
-func typesOf(n api.NNode) map[string]int {
-	types := map[string]int{}
-	for _, d := range slices.Backward(slices.Concat(n.In, n.Out, n.Locals)) {
-		types[d.Name] = d.Type
-	}
-	return types
 }
 
 // right returns the right side that an equation stands for, in a node whose variables have the types.

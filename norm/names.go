@@ -1,24 +1,9 @@
 package norm
 
 import (
-	"strconv"
-
 	"synchrony/api"
 	"synchrony/scope"
 )
-
-// naming returns a function that names the added variables of a program, one after the other.
-func naming(p api.Program) func() string {
-	used, last := names(p), 0
-	return func() string {
-		for {
-			last++
-			if name := "aux_" + strconv.Itoa(last); !used[name] {
-				return name
-			}
-		}
-	}
-}
 
 // names returns the names of all kinds in a plain program that is accepted, so that each one is declared somewhere.
 func names(p api.Program) map[string]bool {

@@ -13,13 +13,13 @@ import (
 type splitter struct {
 	program api.Program
 	node    int // its index in the program
-	fresh   func() string
+	fresh   func(base string) string
 	added   map[string]int // the added variables, and their types
 	eqs     []api.NEq      // the result, as far as it is built
 }
 
 // split returns the normal form of a node of a plain program. The added variables get their names from fresh.
-func split(p api.Program, node int, fresh func() string) api.NNode {
+func split(p api.Program, node int, fresh func(base string) string) api.NNode {
 	s := &splitter{program: p, node: node, fresh: fresh, added: map[string]int{}}
 	n := p.Nodes[node]
 	clocks := map[string][]api.On{}
@@ -41,7 +41,7 @@ func (s *splitter) append(x api.NEq, ck []api.On, left ...string) {
 
 // add adds a variable of a type on a clock, and the equation that defines it.
 func (s *splitter) add(t int, x api.NEq, ck []api.On) api.Expr {
-	name := s.fresh()
+	name := s.fresh("aux")
 	s.added[name] = t
 	s.append(x, ck, name)
 	return variable(name)
