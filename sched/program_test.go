@@ -9,22 +9,10 @@ import (
 	"synchrony/api"
 	"synchrony/norm"
 	"synchrony/parse"
+	"synchrony/samples"
 	"synchrony/sim"
 	"synchrony/simp"
 )
-
-// texts are programs with equations of all kinds, on several clocks.
-func texts() []string {
-	return []string{
-		"node f(a: int; c: bool) returns (x: int) var y: int; z: int; let x = y + z; y = a + (0 fby z); z = a * 2; tel",
-		"node f(a: int; c: bool) returns (x: int; y: int) let x = merge c (true -> (0 -> pre a + 1) when true(c)) (false -> y when false(c)); y = a -> pre x; tel",
-		"node count(r: bool) returns (n: int; w: bool) let n = if r then 0 else (0 fby n) + 1; w = '1(001)'; tel node f(a: int; c: bool) returns (x: int; y: int) var n: int; w: bool; p: bool; let (n, w) = count(a > 1) every p; p = (false fby w) or c; x = n + y; y = merge w (true -> a when true(w)) (false -> n when false(w)); tel",
-		"type E = P | Q | R; node g(i: int) returns (o: int) let o = i + (0 fby o); tel node f(a: int; c: bool) returns (x: int) var e: E; p: int when P(e); q: bool when Q(e); r: int when Q(e) when true(q); s: int when Q(e) when false(q); u: int when R(e); let " +
-			"x = merge e (P -> p) (Q -> merge q (true -> r) (false -> s)) (R -> u); p = (a + 1) when P(e); q = (c when Q(e)) xor '(10)'; r = 1 fby r + 1; s = g((a when Q(e)) when false(q)); u = g(a when R(e)) every (c when R(e)); e = if c then P else R fby (if a > 0 then Q else e); tel",
-		"node f(a: int; c: bool) returns (x: int) let automaton state A do x = 0 -> pre x + a; until c and x > 2 then B; done state B var l: int; unless a = 3 continue A; do l = a -> pre l - 1; x = l * 2; done end tel",
-		"node f(a: int; c: bool) returns (x: int; p: bool) var d: int; e: int; k: bool when true(c); p1: bool; let x = d - e; d = 0 fby e; e = 1 fby d + a; k = '(110)'; p = merge c (true -> k) (false -> p1 when false(c)); p1 = true fby not p1; tel",
-	}
-}
 
 func normal(t *testing.T, s string) api.NProgram {
 	t.Helper()
@@ -50,10 +38,7 @@ func compare(t *testing.T, r *rand.Rand, n, other api.NProgram) {
 			t.Fatalf("%s: New returns the errors %d and %d", x.Name, int(e), int(f))
 		}
 		for range 8 {
-			var row []int
-			for _, d := range x.In {
-				row = append(row, []int{r.Intn(2), r.Intn(6) - 1, r.Intn(2)}[min(d.Type-api.TBool, 2)])
-			}
+			row := samples.Row(r.Intn, n.Enums, x.In)
 			want, _ := a.Step(row)
 			if l, e := b.Step(row); e != api.OK || !slices.Equal(l, want) {
 				t.Fatalf("%s: the outputs are %v, want %v, the error is %d", x.Name, l, want, int(e))
@@ -71,7 +56,7 @@ func compare(t *testing.T, r *rand.Rand, n, other api.NProgram) {
 // TestProgram is P21.1, P21.2 and P21.5, and G4 for scheduling.
 func TestProgram(t *testing.T) {
 	r := rand.New(rand.NewSource(2))
-	for _, s := range texts() {
+	for _, s := range samples.Texts() {
 		n := normal(t, s)
 		simple, e := simp.Program(n)
 		if e != api.OK {

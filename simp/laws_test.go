@@ -10,6 +10,7 @@ import (
 	"synchrony/api"
 	"synchrony/norm"
 	"synchrony/parse"
+	"synchrony/samples"
 	"synchrony/sim"
 )
 
@@ -18,7 +19,7 @@ func somePrograms(t *testing.T, seed int64, count int, f func(r *rand.Rand, n ap
 	t.Helper()
 	r := rand.New(rand.NewSource(seed))
 	for range count {
-		n := someProgram(r)
+		n := samples.Program(r.Intn)
 		if e := norm.Check(n); e != api.OK {
 			t.Fatalf("the program is refused with the error %d:\n%s", int(e), program(n))
 		}
@@ -27,18 +28,6 @@ func somePrograms(t *testing.T, seed int64, count int, f func(r *rand.Rand, n ap
 			t.Fatal(program(n))
 		}
 	}
-}
-
-func someRows(r *rand.Rand, in []api.Decl, n int) [][]int {
-	var rows [][]int
-	for range n {
-		var row []int
-		for _, d := range in {
-			row = append(row, []int{r.Intn(2), r.Intn(5) - 2, r.Intn(3)}[d.Type-api.TBool])
-		}
-		rows = append(rows, row)
-	}
-	return rows
 }
 
 // compare checks that the nodes have the same outputs in both programs, and the variables that are left the same cells.
@@ -51,7 +40,7 @@ func compare(t *testing.T, what string, r *rand.Rand, n, changed api.NProgram) {
 		if e != api.OK || f != api.OK {
 			t.Fatalf("%s: New returns the errors %d and %d", what, int(e), int(f))
 		}
-		for _, row := range someRows(r, x.In, 8) {
+		for _, row := range samples.Rows(r.Intn, n.Enums, x.In, 8) {
 			want, _ := a.Step(row)
 			if l, e := b.Step(row); e != api.OK || !slices.Equal(l, want) {
 				t.Errorf("%s: at %d the outputs of %s are %v, want %v, the error is %d", what, a.Time(), x.Name, l, want, int(e))
@@ -230,7 +219,7 @@ func TestAutomata(t *testing.T) {
 			t.Fatalf("%s: norm.Program returns the error %d", s, int(e))
 		}
 		is, e := Program(n)
-		rows := someRows(rand.New(rand.NewSource(7)), p.Nodes[0].In, 60)
+		rows := samples.Rows(rand.New(rand.NewSource(7)).Intn, p.Enums, p.Nodes[0].In, 60)
 		want, _ := sim.Run(p, "f", rows)
 		if l, f := sim.Run(norm.Back(is), "f", rows); e != api.OK || f != api.OK || !reflect.DeepEqual(l, want) {
 			t.Errorf("%s: the errors %d and %d; the outputs are %v, want %v", s, int(e), int(f), l, want)
