@@ -1,4 +1,4 @@
-// Package equations tells about normalized equations, and about the nodes that have them, what several layers ask.
+// Package equations tells about normalized equations, and about the nodes that have them, what several layers ask, and replaces the variables that equations read.
 package equations
 
 import (

@@ -2,12 +2,10 @@ package simp
 
 import "synchrony/api"
 
-// sources has the sources of the variables that are copies of other ones.
-type sources map[string]string
-
-func sourcesOf(eqs []api.NEq) sources {
+// sourcesOf returns the sources of the variables that are copies of other ones.
+func sourcesOf(eqs []api.NEq) map[string]string {
 	copies := definitions(eqs, api.EVar)
-	l := sources{}
+	l := map[string]string{}
 	for name := range copies {
 		if source, ok := sourceOf(name, copies); ok {
 			l[name] = source
@@ -25,39 +23,4 @@ func sourceOf(name string, copies map[string]api.Expr) (string, bool) {
 		}
 	}
 	return "", false
-}
-
-// replace replaces a variable by its source.
-func (l sources) replace(name *string) {
-	if source, ok := l[*name]; ok {
-		*name = source
-	}
-}
-
-// replaceIn replaces the variables that an equation reads.
-func (l sources) replaceIn(x *api.NEq) {
-	l.replaceExpr(&x.Right)
-	for i := range x.Args {
-		l.replaceExpr(&x.Args[i])
-	}
-	if x.Every != "" {
-		l.replace(&x.Every)
-	}
-	l.replaceClock(x.Clock)
-}
-
-func (l sources) replaceExpr(e *api.Expr) {
-	switch e.Kind {
-	case api.EVar, api.EWhen, api.EMerge:
-		l.replace(&e.Name)
-	}
-	for i := range e.Args {
-		l.replaceExpr(&e.Args[i])
-	}
-}
-
-func (l sources) replaceClock(ck []api.On) {
-	for i := range ck {
-		l.replace(&ck[i].Name)
-	}
 }
