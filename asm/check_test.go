@@ -6,11 +6,12 @@ import (
 	"testing"
 
 	"synchrony/api"
+	"synchrony/clone"
 )
 
 func expectCheck(t *testing.T, what string, im api.Image, want api.Errno) {
 	t.Helper()
-	before := deepCopy(im)
+	before := clone.Image(im)
 	if e := Check(im); e != want {
 		t.Errorf("%s: Check returns %d, want %d", what, int(e), int(want))
 	}

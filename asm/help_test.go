@@ -8,6 +8,8 @@ import (
 	"testing"
 
 	"synchrony/api"
+	"synchrony/clone"
+	"synchrony/samples"
 )
 
 func instr(op int, fields ...int) api.Instr {
@@ -30,76 +32,8 @@ func all() api.Image {
 
 func pick[T any](r *rand.Rand, l ...T) T { return l[r.Intn(len(l))] }
 
-// times returns up to n results.
-func times[T any](r *rand.Rand, n int, f func() T) []T {
-	var l []T
-	for range r.Intn(n + 1) {
-		l = append(l, f())
-	}
-	return l
-}
-
 // someImage returns an image that is right.
-func someImage(r *rand.Rand) api.Image {
-	im := api.Image{Enums: times(r, 3, func() int { return 1 + r.Intn(16) })}
-	for k := range 1 + r.Intn(4) {
-		typ := func() int { return 1 + r.Intn(2+len(im.Enums)) }
-		x := api.Routine{Name: pick(r, "f", "F_1", "0", "_", "end"), In: times(r, 3, typ), Out: times(r, 3, typ)}
-		x.Regs = len(x.In) + len(x.Out) + r.Intn(4)
-		x.Init = times(r, 4, func() int { return r.Intn(1<<16) + api.MinInt })
-		length := r.Intn(10)
-		for at := range length {
-			x.Code = append(x.Code, someInstr(r, im, k, x, at, length))
-		}
-		im.Routines = append(im.Routines, x)
-	}
-	return im
-}
-
-// someInstr returns an instruction of the routine x, which is the one with the number k.
-func someInstr(r *rand.Rand, im api.Image, k int, x api.Routine, at, length int) api.Instr {
-	register := func() int { return r.Intn(x.Regs) }
-	target := at + 1 + r.Intn(length-at)
-	call := func() int { return pick(r, api.ICall, api.IReset) }
-	ops := []int{api.IJump}
-	if x.Regs > 0 {
-		ops = append(ops, api.ILoad, api.IMove, api.IUnary, api.IApply, api.IZero)
-		if len(x.Init) > 0 {
-			ops = append(ops, api.IRead, api.IWrite)
-		}
-	}
-	if k > 0 {
-		ops = append(ops, call(), call())
-	}
-	switch op := pick(r, ops...); op {
-	case api.ILoad:
-		return instr(op, register(), r.Intn(1<<16)+api.MinInt)
-	case api.IMove:
-		return instr(op, register(), register())
-	case api.IRead:
-		return instr(op, register(), r.Intn(len(x.Init)))
-	case api.IWrite:
-		return instr(op, r.Intn(len(x.Init)), register())
-	case api.IUnary:
-		return instr(op, register(), register(), 1+r.Intn(2))
-	case api.IApply:
-		return instr(op, register(), register(), register(), 3+r.Intn(14))
-	case api.IZero:
-		return instr(op, register(), target)
-	case api.ICall, api.IReset:
-		a := r.Intn(k)
-		c := im.Routines[a]
-		memories, ins, outs := len(x.Init)-len(c.Init), x.Regs-len(c.In), x.Regs-len(c.Out)
-		if memories < 0 || ins < 0 || outs < 0 {
-			break
-		}
-		if op == api.IReset {
-			return instr(op, a, r.Intn(memories+1))
-		}
-		return instr(op, a, r.Intn(memories+1), r.Intn(ins+1), r.Intn(outs+1))
-	}
-	return instr(api.IJump, 0, target)
-}
+func someImage(r *rand.Rand) api.Image { return samples.Image(r.Intn, 10) }
 
 // places returns where all numbers and names in v are.
 func places(v reflect.Value) []reflect.Value {
@@ -141,20 +75,9 @@ func expectNewMemory(t *testing.T, argument, result any) {
 	}
 }
 
-// deepCopy returns an image in memory of its own.
-func deepCopy(im api.Image) api.Image {
-	im.Enums = slices.Clone(im.Enums)
-	im.Routines = slices.Clone(im.Routines)
-	for k := range im.Routines {
-		x := &im.Routines[k]
-		x.In, x.Out, x.Init, x.Code = slices.Clone(x.In), slices.Clone(x.Out), slices.Clone(x.Init), slices.Clone(x.Code)
-	}
-	return im
-}
-
 // spoiled changes some numbers, names and lists of an image.
 func spoiled(r *rand.Rand, im api.Image) api.Image {
-	im = deepCopy(im)
+	im = clone.Image(im)
 	for range 1 + r.Intn(2) {
 		switch v := pick(r, places(reflect.ValueOf(&im).Elem())...); v.Kind() {
 		case reflect.Int:

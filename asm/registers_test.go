@@ -6,6 +6,7 @@ import (
 	"testing"
 
 	"synchrony/api"
+	"synchrony/clone"
 )
 
 // TestRegisters is P26.2: what each instruction reads and writes.
@@ -40,7 +41,7 @@ func TestRegisters(t *testing.T) {
 		{instr(-1, 4, 3, 2, 1), nil, nil},
 		{instr(api.IApply, -4, -2, -3, 99), []int{-3, -2}, []int{-4}},
 	} {
-		before := deepCopy(im)
+		before := clone.Image(im)
 		uses, sets := Uses(im, x.i), Sets(im, x.i)
 		if !slices.Equal(uses, x.uses) || !slices.Equal(sets, x.sets) {
 			t.Errorf("%v: it uses %v, want %v; it sets %v, want %v", x.i, uses, x.uses, sets, x.sets)

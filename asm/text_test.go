@@ -8,6 +8,7 @@ import (
 	"testing"
 
 	"synchrony/api"
+	"synchrony/clone"
 )
 
 // allText is the text of all.
@@ -56,7 +57,7 @@ func TestText(t *testing.T) {
 		{api.Image{Routines: []api.Routine{{Name: "f"}}}, "enums\nroutine f\nin\nout\nregs 0\ninit\nend\n"},
 		{api.Image{Enums: []int{2}, Routines: []api.Routine{{Name: "f"}, {Name: "f", Regs: 1}}}, "enums 2\nroutine f\nin\nout\nregs 0\ninit\nend\nroutine f\nin\nout\nregs 1\ninit\nend\n"},
 	} {
-		before := deepCopy(x.im)
+		before := clone.Image(x.im)
 		if s, e := Text(x.im); s != x.want || e != api.OK {
 			t.Errorf("the text of %v is\n%s, want\n%s; the error is %d", x.im, s, x.want, int(e))
 		}
@@ -304,7 +305,7 @@ func TestSame(t *testing.T) {
 		t.Errorf("Same of equal images is wrong")
 	}
 	for k := range places(reflect.ValueOf(im)) {
-		other := deepCopy(im)
+		other := clone.Image(im)
 		switch v := places(reflect.ValueOf(&other).Elem())[k]; v.Kind() {
 		case reflect.Int:
 			v.SetInt(v.Int() + 1)

@@ -5,11 +5,12 @@ import (
 	"testing"
 
 	"synchrony/api"
+	"synchrony/clone"
 )
 
 func expectWorst(t *testing.T, what string, im api.Image, want int) {
 	t.Helper()
-	before := deepCopy(im)
+	before := clone.Image(im)
 	if n, e := Worst(im); n != want || e != api.OK {
 		t.Errorf("%s: at most %d instructions, want %d; the error is %d", what, n, want, int(e))
 	}

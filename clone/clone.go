@@ -63,3 +63,19 @@ func Class(c api.Class) api.Class {
 	c.Step = Stmts(c.Step)
 	return c
 }
+
+func Objects(o api.Objects) api.Objects {
+	o.Enums, o.Classes = Map(o.Enums, Enum), Map(o.Classes, Class)
+	return o
+}
+
+func Routine(r api.Routine) api.Routine {
+	r.In, r.Out = slices.Clone(r.In), slices.Clone(r.Out)
+	r.Init, r.Code = slices.Clone(r.Init), slices.Clone(r.Code)
+	return r
+}
+
+func Image(im api.Image) api.Image {
+	im.Enums, im.Routines = slices.Clone(im.Enums), Map(im.Routines, Routine)
+	return im
+}

@@ -83,6 +83,9 @@ func TestCopies(t *testing.T) {
 	expectCopy(t, Stmt)
 	expectCopy(t, Stmts)
 	expectCopy(t, Class)
+	expectCopy(t, Objects)
+	expectCopy(t, Routine)
+	expectCopy(t, Image)
 }
 
 func TestMap(t *testing.T) {

@@ -4,7 +4,6 @@ import (
 	"math/rand"
 	"reflect"
 	"slices"
-	"strconv"
 	"testing"
 
 	"synchrony/api"
@@ -13,131 +12,6 @@ import (
 	"synchrony/samples"
 	"synchrony/sched"
 )
-
-// maker makes a class, statement by statement.
-type maker struct {
-	*rand.Rand
-	api.Objects           // the classes before
-	class       api.Class // the one that is made
-}
-
-// someObjects returns right object code.
-func someObjects(r *rand.Rand) api.Objects {
-	m := &maker{Rand: r, Objects: api.Objects{Enums: samples.Enums()}}
-	for i := range 1 + r.Intn(2) {
-		m.class = api.Class{Name: "f" + strconv.Itoa(i), In: m.decls("a", 2+r.Intn(3)), Locals: m.decls("v", 4+r.Intn(6))}
-		for _, d := range m.decls("m", r.Intn(3)) {
-			m.class.Mems = append(m.class.Mems, api.Mem{Name: d.Name, Type: d.Type})
-		}
-		if i > 0 {
-			m.class.Insts = []api.Inst{{Name: "i", Class: "f0"}, {Name: "k", Class: "f0"}}
-		}
-		m.fill()
-		m.Classes = append(m.Classes, m.class)
-	}
-	return m.Objects
-}
-
-func (m *maker) decls(letter string, n int) []api.Decl {
-	var l []api.Decl
-	for i := range n {
-		l = append(l, api.Decl{Name: letter + strconv.Itoa(i), Type: pick(m.Rand, api.TBool, api.TBool, api.TEnum, api.TInt, api.TEnum+1)})
-	}
-	return l
-}
-
-// right reports whether the class is, and has no case in a case by the same variable.
-func (m *maker) right() bool {
-	return obj.Check(api.Objects{Enums: m.Enums, Classes: append(slices.Clone(m.Classes), m.class)}) == api.OK && !repeated(m.class.Step, nil)
-}
-
-// repeated reports whether a case in a list is in a case by the same variable. One of its branches is never executed then, and obj.Check ignores what earlier cases assign in theirs; but there it sees what is earlier in the same list, so that it can accept two cases and not the one that they are combined to.
-func repeated(l []api.Stmt, around []string) bool {
-	return slices.ContainsFunc(l, func(s api.Stmt) bool {
-		if s.Kind != api.SCase {
-			return false
-		}
-		within := append(slices.Clone(around), s.Name)
-		in := func(branch []api.Stmt) bool { return repeated(branch, within) }
-		return slices.Contains(around, s.Name) || slices.ContainsFunc(s.Branches, in)
-	})
-}
-
-// fill adds steps to the class, and makes outputs of locals that they always assign.
-func (m *maker) fill() {
-	for range 60 + m.Intn(80) {
-		before := m.class.Step
-		m.class.Step = deepCopy(before)
-		m.insert(m.statement())
-		if !m.right() {
-			m.class.Step = before
-		}
-	}
-	for _, d := range slices.Clone(m.class.Locals) {
-		before := m.class
-		m.class.Out = append(slices.Clone(before.Out), d)
-		m.class.Locals = slices.DeleteFunc(slices.Clone(before.Locals), func(x api.Decl) bool { return x.Name == d.Name })
-		if !m.right() {
-			m.class = before
-		}
-	}
-}
-
-// insert puts a statement at the end of a list, or close to it.
-func (m *maker) insert(s api.Stmt) {
-	lists := []*[]api.Stmt{&m.class.Step}
-	for i := 0; i < len(lists); i++ {
-		for k := range *lists[i] {
-			for n := range (*lists[i])[k].Branches {
-				lists = append(lists, &(*lists[i])[k].Branches[n])
-			}
-		}
-	}
-	at := pick(m.Rand, lists...)
-	*at = slices.Insert(*at, len(*at)-m.Intn(min(len(*at), 2)+1), s)
-}
-
-// statement returns a statement that could be right somewhere.
-func (m *maker) statement() api.Stmt {
-	d := pick(m.Rand, slices.Concat(m.class.In, m.class.Locals)...)
-	switch k := m.Intn(10); {
-	case k < 5 && d.Type != api.TInt:
-		return api.Stmt{Kind: api.SCase, Name: d.Name, T: d.Type, Branches: make([][]api.Stmt, []int{0, 2, 0, 3, 1}[d.Type])}
-	case k == 5 && len(m.class.Mems) > 0:
-		x := pick(m.Rand, m.class.Mems...)
-		return store(x.Name, m.expression(x.Type))
-	case k == 6 && len(m.class.Insts) > 0:
-		s := call(pick(m.Rand, "i", "k"), "")
-		for _, d := range m.Classes[0].In {
-			s.Args = append(s.Args, m.expression(d.Type))
-		}
-		for range m.Classes[0].Out {
-			s.Outs = append(s.Outs, pick(m.Rand, m.class.Locals...).Name)
-		}
-		return s
-	case k == 7 && len(m.class.Insts) > 0:
-		return reset(pick(m.Rand, "i", "k"))
-	}
-	d = pick(m.Rand, m.class.Locals...)
-	return set(d.Name, m.expression(d.Type))
-}
-
-func (m *maker) expression(t int) api.Expr {
-	of := func(d api.Decl) bool { return d.Type != t }
-	vars := slices.DeleteFunc(slices.Concat(m.class.In, m.class.In, m.class.Locals), of)
-	mems := slices.DeleteFunc(slices.Clone(m.class.Mems), func(x api.Mem) bool { return x.Type != t })
-	switch k := m.Intn(6); {
-	case k < 3 && len(vars) > 0:
-		return v(pick(m.Rand, vars...).Name)
-	case k == 3 && len(mems) > 0:
-		return state(pick(m.Rand, mems...).Name)
-	case k == 4 && t == api.TInt:
-		return api.Expr{Kind: api.EOp, Op: api.OpAdd, Args: []api.Expr{m.expression(t), m.expression(t)}}
-	case k == 4 && t == api.TBool:
-		return api.Expr{Kind: api.EOp, Op: api.OpNot, Args: []api.Expr{m.expression(t)}}
-	}
-	return constant(t, m.Intn(min(2, len(vars)+1)))
-}
 
 // expectProgram is P24.4: the result is right object code with joined steps, and each class does the same.
 func expectProgram(t *testing.T, r *rand.Rand, o api.Objects) api.Objects {
@@ -199,7 +73,7 @@ func TestProgram(t *testing.T) {
 	r := rand.New(rand.NewSource(2))
 	before, after, outputs := 0, 0, 0
 	for range 300 {
-		o := someObjects(r)
+		o := samples.Objects(r.Intn)
 		is := expectProgram(t, r, o)
 		before, after = before+casesOf(o), after+casesOf(is)
 		for _, c := range o.Classes {

@@ -5,7 +5,10 @@ import (
 	"testing"
 
 	"synchrony/api"
+	"synchrony/asm"
+	"synchrony/expr"
 	"synchrony/norm"
+	"synchrony/obj"
 	"synchrony/parse"
 	"synchrony/samples"
 	"synchrony/value"
@@ -58,6 +61,75 @@ func TestTexts(t *testing.T) {
 		}
 		if _, e := norm.Program(p); e != api.OK {
 			t.Errorf("%.60q.. has no normal form; the error is %d", s, int(e))
+		}
+	}
+}
+
+// TestObjects does the same for object code.
+func TestObjects(t *testing.T) {
+	r := rand.New(rand.NewSource(2))
+	kinds, outputs, instances := map[[2]int]int{}, 0, 0
+	count := func(e api.Expr) {
+		for part := range expr.Each(e) {
+			kinds[[2]int{part.Kind, part.Op}]++
+		}
+	}
+	var statements func(l []api.Stmt)
+	statements = func(l []api.Stmt) {
+		for _, s := range l {
+			kinds[[2]int{-s.Kind}]++
+			count(s.Right)
+			for _, a := range s.Args {
+				count(a)
+			}
+			for _, branch := range s.Branches {
+				statements(branch)
+			}
+		}
+	}
+	for range 300 {
+		o := samples.Objects(r.Intn)
+		if e := obj.Check(o); e != api.OK {
+			t.Fatalf("Check of %v returns %d", o, int(e))
+		}
+		for _, c := range o.Classes {
+			statements(c.Step)
+			outputs, instances = outputs+len(c.Out), instances+len(c.Insts)
+		}
+	}
+	for _, k := range []int{-api.SAssign, -api.SStore, -api.SCase, -api.SCall, -api.SReset, api.EConst, api.EVar, api.EState, api.EIf} {
+		if kinds[[2]int{k}] < 100 {
+			t.Errorf("there are %d of the kind %d", kinds[[2]int{k}], k)
+		}
+	}
+	for op := api.OpNot; op <= api.OpGe; op++ {
+		if kinds[[2]int{api.EOp, op}] < 10 {
+			t.Errorf("the operator %d is there %d times", op, kinds[[2]int{api.EOp, op}])
+		}
+	}
+	if outputs < 500 || instances < 200 {
+		t.Errorf("there are %d outputs and %d instances", outputs, instances)
+	}
+}
+
+// TestImages does the same for images.
+func TestImages(t *testing.T) {
+	r := rand.New(rand.NewSource(3))
+	ops := map[int]int{}
+	for range 500 {
+		im := samples.Image(r.Intn, 10)
+		if e := asm.Check(im); e != api.OK {
+			t.Fatalf("Check of %v returns %d", im, int(e))
+		}
+		for _, x := range im.Routines {
+			for _, i := range x.Code {
+				ops[i.Op]++
+			}
+		}
+	}
+	for op := api.ILoad; op <= api.IReset; op++ {
+		if ops[op] < 100 {
+			t.Errorf("the operations are %v", ops)
 		}
 	}
 }
