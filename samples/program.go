@@ -120,19 +120,9 @@ func (m *maker) atom(from []api.Decl, d api.Decl) api.Expr {
 	return api.Expr{Kind: api.EConst, T: d.Type, V: m.some(d.Type)}
 }
 
-// order returns the numbers below n in some order.
-func (m *maker) order(n int) []int {
-	l := make([]int, n)
-	for i := range l {
-		l[i] = i
-	}
-	shuffle(m.choose, l)
-	return l
-}
-
 // again returns a right side that there is already, if there is one.
 func (m *maker) again(d api.Decl) api.Expr {
-	for _, i := range m.order(len(m.eqs)) {
+	for _, i := range order(m.choose, len(m.eqs)) {
 		x := m.eqs[i]
 		if x.Kind == api.NDef && slices.Equal(x.Clock, d.Clock) && len(of(m.now, d.Type, d.Clock)) > 0 &&
 			slices.ContainsFunc(m.now, func(y api.Decl) bool { return y.Name == x.Left[0] && y.Type == d.Type }) {
@@ -145,7 +135,7 @@ func (m *maker) again(d api.Decl) api.Expr {
 // call returns a call that defines variables on the clock of the first one, if there can be one.
 func (m *maker) call(vars []api.Decl) api.NEq {
 	d := vars[0]
-	for _, i := range m.order(len(m.nodes)) {
+	for _, i := range order(m.choose, len(m.nodes)) {
 		n := m.nodes[i]
 		left := results(n.Out, vars, d.Clock)
 		if len(left) < len(n.Out) {

@@ -19,6 +19,16 @@ func shuffle[T any](choose Choose, l []T) {
 	}
 }
 
+// order returns the numbers below n in some order.
+func order(choose Choose, n int) []int {
+	l := make([]int, n)
+	for i := range l {
+		l[i] = i
+	}
+	shuffle(choose, l)
+	return l
+}
+
 // Enums returns enumerations with different numbers of tags.
 func Enums() []api.Enum {
 	return []api.Enum{

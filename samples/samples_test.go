@@ -4,9 +4,11 @@ import (
 	"math/rand"
 	"testing"
 
+	"synchrony/accept"
 	"synchrony/api"
 	"synchrony/asm"
 	"synchrony/expr"
+	"synchrony/modes"
 	"synchrony/norm"
 	"synchrony/obj"
 	"synchrony/parse"
@@ -62,6 +64,46 @@ func TestTexts(t *testing.T) {
 		if _, e := norm.Program(p); e != api.OK {
 			t.Errorf("%.60q.. has no normal form; the error is %d", s, int(e))
 		}
+	}
+}
+
+// TestSources does the same for programs with automata: without undefined cells they are accepted, and otherwise right up to the initialization.
+func TestSources(t *testing.T) {
+	r := rand.New(rand.NewSource(4))
+	kinds, nests, errors, claims := map[int]int{}, map[int]int{}, map[api.Errno]int{}, 0
+	for range 400 {
+		p := samples.Source(r.Intn, 6, 0)
+		if _, e := accept.Check(p); e != api.OK {
+			t.Fatalf("Check of %v returns %d", p, int(e))
+		}
+		if modes.Count(p) > 6 {
+			t.Errorf("there are %d automata", modes.Count(p))
+		}
+		nests[modes.Nest(p)]++
+		for _, n := range p.Nodes {
+			claims += len(n.Assume) + len(n.Ensure)
+			for _, x := range n.Eqs {
+				for part := range expr.Each(x.Right) {
+					kinds[part.Kind]++
+				}
+			}
+		}
+		_, e := accept.Check(samples.Source(r.Intn, 6, 5))
+		errors[e]++
+	}
+	for kind := api.EConst; kind <= api.EWord; kind++ {
+		if kinds[kind] < 100 {
+			t.Errorf("the kinds of expressions are %v", kinds)
+		}
+	}
+	if nests[0] < 20 || nests[1] < 20 || nests[2] < 20 || nests[3] < 20 || claims < 300 {
+		t.Errorf("the nestings of automata are %v, the claims %d", nests, claims)
+	}
+	if len(errors) != 2 || errors[api.OK] < 20 || errors[api.ErrInit] < 20 {
+		t.Errorf("with undefined cells the errors are %v", errors)
+	}
+	if p := samples.Source(r.Intn, 0, 0); modes.Count(p) != 0 {
+		t.Errorf("without automata there are %d", modes.Count(p))
 	}
 }
 

@@ -113,8 +113,6 @@ func (x example) check(t *testing.T) {
 	}
 }
 
-func pick[T any](r *rand.Rand, l ...T) T { return l[r.Intn(len(l))] }
-
 // someRows returns n rows of inputs of the last node, whose enumerations have three tags.
 func someRows(r *rand.Rand, p api.Program, n int) [][]int {
 	var rows [][]int

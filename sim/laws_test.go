@@ -10,18 +10,20 @@ import (
 	"synchrony/accept"
 	"synchrony/api"
 	"synchrony/modes"
+	"synchrony/samples"
 	"synchrony/scope"
 	"synchrony/show"
 )
 
+// maker says which programs are made.
+type maker struct{ autos, pres int }
+
 // somePrograms calls f with programs that are the same in each run.
-func somePrograms(t *testing.T, seed int64, n int, m maker, f func(r *rand.Rand, p api.Program)) {
+func somePrograms(t *testing.T, seed int64, n int, make maker, f func(r *rand.Rand, p api.Program)) {
 	t.Helper()
 	r := rand.New(rand.NewSource(seed))
 	for range n {
-		next := m
-		next.r = r
-		p := next.program()
+		p := samples.Source(r.Intn, make.autos, make.pres)
 		f(r, p)
 		if t.Failed() {
 			s, _ := show.Program(p)
@@ -187,7 +189,7 @@ func TestDefinedness(t *testing.T) {
 }
 
 func inType(t, v int) bool {
-	return v >= 0 && v < 2 && t == api.TBool || v >= 0 && v < 3 && t == someEnum || v >= api.MinInt && v <= api.MaxInt && t == api.TInt
+	return v >= 0 && v < 2 && t == api.TBool || v >= 0 && v < 3 && t == api.TEnum || v >= api.MinInt && v <= api.MaxInt && t == api.TInt
 }
 
 // TestPrefix is P17.6: the outputs depend on the inputs so far only, and after Reset everything is as at the beginning.

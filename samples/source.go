@@ -1,59 +1,59 @@
-package sim
+package samples
 
 import (
-	"math/rand"
 	"slices"
 	"strconv"
 
 	"synchrony/api"
+	"synchrony/value"
 )
 
-const someEnum = api.TEnum // the enumeration of the programs that are made, which has three tags
+const someEnum = api.TEnum // the enumeration of these programs, which has three tags
 
-// maker makes programs that New accepts.
-type maker struct {
-	r     *rand.Rand
-	p     api.Program
+// source makes programs with automata, node by node.
+type source struct {
+	choose Choose
+	api.Program
 	names int        // how many names there are
 	autos int        // how many automata there may still be
-	pres  int        // how often there are EPre behind no EArrow, of 10 times; without them no cell is undefined
+	pres  int        // how often there is an EPre behind no EArrow, of 10 times
 	pure  bool       // whether the expression must be stateless
 	now   []api.Decl // the variables that the expression may read
 	later []api.Decl // and those that it may read in a delay
 }
 
-// program returns a program.
-func (m *maker) program() api.Program {
-	m.p = api.Program{Enums: []api.Enum{{Name: "E", Tags: []string{"P", "Q", "R"}}}}
-	for range 1 + m.r.Intn(3) {
-		m.p.Nodes = append(m.p.Nodes, m.node())
+// Source returns a program that the interpreter executes, with at most so many automata. Of 10 places where an EPre behind no EArrow could be, there is one in about pres; without them no cell is undefined, and the program is accepted.
+func Source(choose Choose, autos, pres int) api.Program {
+	m := &source{choose: choose, autos: autos, pres: pres, Program: api.Program{Enums: Enums()[:1]}}
+	for range 1 + choose(3) {
+		m.Nodes = append(m.Nodes, m.node())
 	}
-	return m.p
+	return m.Program
 }
 
-func (m *maker) name(base string) string {
+func (m *source) name(base string) string {
 	m.names++
 	return base + strconv.Itoa(m.names)
 }
 
 // node returns a node, whose outputs are some of the variables that it defines on the base clock.
-func (m *maker) node() api.Node {
+func (m *source) node() api.Node {
 	n := api.Node{Name: m.name("f")}
-	for range m.r.Intn(4) {
+	for range m.choose(4) {
 		n.In = append(n.In, m.decl(nil))
 	}
-	vars := m.decls(n.In, 2+m.r.Intn(6))
+	vars := m.decls(n.In, 2+m.choose(6))
 	vars = append(vars, m.decl(nil))
 	for i, d := range vars {
-		if len(d.Clock) == 0 && (m.r.Intn(3) == 0 || i == len(vars)-1) {
+		if len(d.Clock) == 0 && (m.choose(3) == 0 || i == len(vars)-1) {
 			n.Out = append(n.Out, d)
 		} else {
 			n.Locals = append(n.Locals, d)
 		}
 	}
 	m.now, m.later = n.In, slices.Concat(n.In, vars)
-	n.Eqs, n.Autos = m.body(vars, m.r.Intn(api.MaxNest+1))
-	for range m.r.Intn(3) {
+	n.Eqs, n.Autos = m.body(vars, m.choose(api.MaxNest+1))
+	for range m.choose(3) {
 		m.now, m.later = n.In, n.In
 		n.Assume = append(n.Assume, m.expr(api.TBool, nil, 2))
 		m.now, m.later = slices.Concat(n.In, n.Out), slices.Concat(n.In, n.Out)
@@ -62,20 +62,20 @@ func (m *maker) node() api.Node {
 	return n
 }
 
-func (m *maker) decl(ck []api.On) api.Decl {
-	return api.Decl{Name: m.name("v"), Type: pick(m.r, api.TBool, api.TBool, api.TInt, api.TInt, someEnum), Clock: slices.Clone(ck)}
+func (m *source) decl(ck []api.On) api.Decl {
+	return api.Decl{Name: m.name("v"), Type: pick(m.choose, api.TBool, api.TBool, api.TInt, api.TInt, someEnum), Clock: slices.Clone(ck)}
 }
 
 // decls returns n declarations, each one on the base clock or a clock that variables before it permit.
-func (m *maker) decls(before []api.Decl, n int) []api.Decl {
+func (m *source) decls(before []api.Decl, n int) []api.Decl {
 	var l []api.Decl
 	for range n {
 		var ck []api.On
-		if by := slices.DeleteFunc(slices.Concat(before, l), func(d api.Decl) bool { return d.Type == api.TInt }); len(by) > 0 && m.r.Intn(2) == 0 {
-			d := pick(m.r, by...)
+		if by := slices.DeleteFunc(slices.Concat(before, l), func(d api.Decl) bool { return d.Type == api.TInt }); len(by) > 0 && m.choose(2) == 0 {
+			d := pick(m.choose, by...)
 			ck = d.Clock
 			if len(ck) < api.MaxClock-1 {
-				ck = append(slices.Clone(ck), api.On{Name: d.Name, T: d.Type, Tag: m.value(d.Type)})
+				ck = longer(ck, d, m.value(d.Type))
 			}
 		}
 		l = append(l, m.decl(ck))
@@ -84,14 +84,11 @@ func (m *maker) decls(before []api.Decl, n int) []api.Decl {
 }
 
 // value returns a value of a type, a small one of the type int.
-func (m *maker) value(t int) int {
-	switch t {
-	case api.TBool:
-		return m.r.Intn(2)
-	case api.TInt:
-		return m.r.Intn(9) - 4
+func (m *source) value(t int) int {
+	if t == api.TInt {
+		return m.choose(9) - 4
 	}
-	return m.r.Intn(3)
+	return m.choose(value.Size(m.Enums, t))
 }
 
 func onBase(l []api.Decl) []api.Decl {
@@ -99,12 +96,12 @@ func onBase(l []api.Decl) []api.Decl {
 }
 
 // body returns equations and automata, in any order, that define the variables, each one by those before it.
-func (m *maker) body(vars []api.Decl, nest int) ([]api.Eq, []api.Auto) {
+func (m *source) body(vars []api.Decl, nest int) ([]api.Eq, []api.Auto) {
 	var eqs []api.Eq
 	var autos []api.Auto
 	for len(vars) > 0 {
-		k := min(1+m.r.Intn(3), len(vars))
-		if nest > 0 && m.autos > 0 && len(onBase(vars[:k])) == k && m.r.Intn(2) == 0 {
+		k := min(1+m.choose(3), len(vars))
+		if nest > 0 && m.autos > 0 && len(onBase(vars[:k])) == k && m.choose(2) == 0 {
 			m.autos--
 			autos = append(autos, m.auto(vars[:k], nest-1))
 		} else {
@@ -114,15 +111,15 @@ func (m *maker) body(vars []api.Decl, nest int) ([]api.Eq, []api.Auto) {
 		m.now = slices.Concat(m.now, vars[:k])
 		vars = vars[k:]
 	}
-	m.r.Shuffle(len(eqs), func(i, j int) { eqs[i], eqs[j] = eqs[j], eqs[i] })
-	m.r.Shuffle(len(autos), func(i, j int) { autos[i], autos[j] = autos[j], autos[i] })
+	shuffle(m.choose, eqs)
+	shuffle(m.choose, autos)
 	return eqs, autos
 }
 
 // equation returns an equation that defines the first of the variables, or several ones by a call.
-func (m *maker) equation(vars []api.Decl) api.Eq {
+func (m *source) equation(vars []api.Decl) api.Eq {
 	d := vars[0]
-	for _, n := range m.p.Nodes {
+	for _, n := range m.Nodes {
 		fits := func(out, v api.Decl) bool { return out.Type == v.Type && slices.Equal(v.Clock, d.Clock) }
 		if k := len(n.Out); k > 1 && k <= len(vars) && slices.EqualFunc(n.Out, vars[:k], fits) {
 			var left []string
@@ -132,24 +129,24 @@ func (m *maker) equation(vars []api.Decl) api.Eq {
 			return api.Eq{Left: left, Right: m.call(n, d.Clock, 2)}
 		}
 	}
-	return api.Eq{Left: []string{d.Name}, Right: m.expr(d.Type, d.Clock, 1+m.r.Intn(3))}
+	return api.Eq{Left: []string{d.Name}, Right: m.expr(d.Type, d.Clock, 1+m.choose(3))}
 }
 
 // auto returns an automaton that defines the variables, by those on the base clock.
-func (m *maker) auto(vars []api.Decl, nest int) api.Auto {
+func (m *source) auto(vars []api.Decl, nest int) api.Auto {
 	defer func(now, later []api.Decl) { m.now, m.later = now, later }(m.now, m.later)
 	outer := onBase(m.now)
-	a := api.Auto{States: make([]api.State, 1+m.r.Intn(3))}
+	a := api.Auto{States: make([]api.State, 1+m.choose(3))}
 	for i := range a.States {
 		s := api.State{Name: m.name("S")}
 		m.now, m.pure = outer, true
 		s.Unless = m.transitions(len(a.States))
 		m.pure = false
-		s.Locals = m.decls(outer, m.r.Intn(3))
+		s.Locals = m.decls(outer, m.choose(3))
 		m.later = slices.Concat(outer, vars, s.Locals)
 		all := slices.Clone(s.Locals)
 		for _, v := range vars {
-			all = slices.Insert(all, m.r.Intn(len(all)+1), v)
+			all = slices.Insert(all, m.choose(len(all)+1), v)
 		}
 		s.Eqs, s.Autos = m.body(all, nest)
 		s.Until = m.transitions(len(a.States))
@@ -158,17 +155,17 @@ func (m *maker) auto(vars []api.Decl, nest int) api.Auto {
 	return a
 }
 
-func (m *maker) transitions(states int) []api.Trans {
+func (m *source) transitions(states int) []api.Trans {
 	var l []api.Trans
-	for range m.r.Intn(3) {
-		l = append(l, api.Trans{Cond: m.expr(api.TBool, nil, 2), To: m.r.Intn(states), Resume: m.r.Intn(2) == 0})
+	for range m.choose(3) {
+		l = append(l, api.Trans{Cond: m.expr(api.TBool, nil, 2), To: m.choose(states), Resume: m.choose(2) == 0})
 	}
 	return l
 }
 
 // call returns a call of n, with a reset condition or without one.
-func (m *maker) call(n api.Node, ck []api.On, depth int) api.Expr {
-	e := api.Expr{Kind: api.ECall, Name: n.Name, V: m.r.Intn(2)}
+func (m *source) call(n api.Node, ck []api.On, depth int) api.Expr {
+	e := api.Expr{Kind: api.ECall, Name: n.Name, V: m.choose(2)}
 	for _, d := range n.In {
 		e.Args = append(e.Args, m.expr(d.Type, ck, depth-1))
 	}
@@ -179,19 +176,18 @@ func (m *maker) call(n api.Node, ck []api.On, depth int) api.Expr {
 }
 
 // leaf returns a variable, a word or a constant.
-func (m *maker) leaf(t int, ck []api.On) api.Expr {
-	other := func(d api.Decl) bool { return d.Type != t || !slices.Equal(d.Clock, ck) }
-	if l := slices.DeleteFunc(slices.Clone(m.now), other); len(l) > 0 && m.r.Intn(6) > 0 {
-		return api.Expr{Kind: api.EVar, Name: pick(m.r, l...).Name}
+func (m *source) leaf(t int, ck []api.On) api.Expr {
+	if l := of(m.now, t, ck); len(l) > 0 && m.choose(6) > 0 {
+		return api.Expr{Kind: api.EVar, Name: pick(m.choose, l...).Name}
 	}
-	if t == api.TBool && !m.pure && m.r.Intn(3) > 0 {
-		return api.Expr{Kind: api.EWord, Name: pick(m.r, "0(1)", "1(01)", "(110)", "(100)")}
+	if t == api.TBool && !m.pure && m.choose(3) > 0 {
+		return api.Expr{Kind: api.EWord, Name: pick(m.choose, "0(1)", "1(01)", "(110)", "(100)")}
 	}
 	return api.Expr{Kind: api.EConst, T: t, V: m.value(t)}
 }
 
 // expr returns an expression of a type that fits a clock.
-func (m *maker) expr(t int, ck []api.On, depth int) api.Expr {
+func (m *source) expr(t int, ck []api.On, depth int) api.Expr {
 	if depth <= 0 {
 		return m.leaf(t, ck)
 	}
@@ -199,16 +195,16 @@ func (m *maker) expr(t int, ck []api.On, depth int) api.Expr {
 	kinds := []int{api.EOp, api.EOp, api.EIf, api.EWhen, api.EMerge}
 	if !m.pure {
 		kinds = append(kinds, api.EArrow, api.EFby, api.EFby, api.ECall, api.ECall)
-		if m.r.Intn(10) < m.pres {
+		if m.choose(10) < m.pres {
 			kinds = append(kinds, api.EPre)
 		}
 	}
-	switch kind := pick(m.r, kinds...); kind {
+	switch kind := pick(m.choose, kinds...); kind {
 	case api.EIf:
 		return api.Expr{Kind: kind, Args: []api.Expr{m.expr(api.TBool, ck, depth-1), same(), same()}}
 	case api.EArrow:
 		e := api.Expr{Kind: kind, Args: []api.Expr{same(), same()}}
-		if m.r.Intn(2) == 0 {
+		if m.choose(2) == 0 {
 			e.Args[1] = api.Expr{Kind: api.EPre, Args: []api.Expr{m.delayed(t, ck, depth-1)}}
 		}
 		return e
@@ -223,8 +219,8 @@ func (m *maker) expr(t int, ck []api.On, depth int) api.Expr {
 			return api.Expr{Kind: kind, Name: ck[k].Name, T: ck[k].T, V: ck[k].Tag, Args: []api.Expr{m.expr(t, ck[:k], depth-1)}}
 		}
 	case api.ECall:
-		for _, i := range m.r.Perm(len(m.p.Nodes)) {
-			if n := m.p.Nodes[i]; len(n.Out) == 1 && n.Out[0].Type == t {
+		for _, i := range order(m.choose, len(m.Nodes)) {
+			if n := m.Nodes[i]; len(n.Out) == 1 && n.Out[0].Type == t {
 				return m.call(n, ck, depth)
 			}
 		}
@@ -232,16 +228,16 @@ func (m *maker) expr(t int, ck []api.On, depth int) api.Expr {
 	return m.operation(t, ck, depth-1)
 }
 
-func (m *maker) delayed(t int, ck []api.On, depth int) api.Expr {
+func (m *source) delayed(t int, ck []api.On, depth int) api.Expr {
 	defer func(now []api.Decl) { m.now = now }(m.now)
 	m.now = m.later
 	return m.expr(t, ck, depth)
 }
 
 // operation returns an operation with operands of some type, or a leaf, if no operator has results of the type.
-func (m *maker) operation(t int, ck []api.On, depth int) api.Expr {
-	of := func(operands int, operators ...int) api.Expr {
-		e := api.Expr{Kind: api.EOp, Op: pick(m.r, operators...), Args: []api.Expr{m.expr(operands, ck, depth)}}
+func (m *source) operation(t int, ck []api.On, depth int) api.Expr {
+	some := func(operands int, operators ...int) api.Expr {
+		e := api.Expr{Kind: api.EOp, Op: pick(m.choose, operators...), Args: []api.Expr{m.expr(operands, ck, depth)}}
 		if e.Op != api.OpNot && e.Op != api.OpNeg {
 			e.Args = append(e.Args, m.expr(operands, ck, depth))
 		}
@@ -249,27 +245,26 @@ func (m *maker) operation(t int, ck []api.On, depth int) api.Expr {
 	}
 	switch {
 	case t == api.TInt:
-		return of(t, api.OpAdd, api.OpAdd, api.OpSub, api.OpMul, api.OpMod, api.OpNeg)
-	case t == api.TBool && m.r.Intn(2) == 0:
-		return of(t, api.OpAnd, api.OpOr, api.OpXor, api.OpNot)
+		return some(t, api.OpAdd, api.OpAdd, api.OpSub, api.OpMul, api.OpMod, api.OpNeg)
+	case t == api.TBool && m.choose(2) == 0:
+		return some(t, api.OpAnd, api.OpOr, api.OpXor, api.OpNot)
 	case t == api.TBool:
-		return of(pick(m.r, api.TInt, someEnum), api.OpEq, api.OpNe)
+		return some(pick(m.choose, api.TInt, someEnum), api.OpEq, api.OpNe)
 	}
 	return m.leaf(t, ck)
 }
 
 // merge returns a merge, or a leaf, if there can be none on the clock.
-func (m *maker) merge(t int, ck []api.On, depth int) api.Expr {
+func (m *source) merge(t int, ck []api.On, depth int) api.Expr {
 	other := func(d api.Decl) bool { return d.Type == api.TInt || !slices.Equal(d.Clock, ck) }
 	l := slices.DeleteFunc(slices.Clone(m.now), other)
 	if len(l) == 0 || len(ck) == api.MaxClock {
 		return m.leaf(t, ck)
 	}
-	d := pick(m.r, l...)
+	d := pick(m.choose, l...)
 	e := api.Expr{Kind: api.EMerge, Name: d.Name, T: d.Type}
-	for tag := range min(d.Type+1, 3) { // two values of the type bool, three of the enumeration
-		on := api.On{Name: d.Name, T: d.Type, Tag: tag}
-		e.Args = append(e.Args, m.expr(t, append(slices.Clone(ck), on), depth))
+	for tag := range value.Size(m.Enums, d.Type) {
+		e.Args = append(e.Args, m.expr(t, longer(ck, d, tag), depth))
 	}
 	return e
 }
